@@ -1,5 +1,7 @@
 package impl
 
+import "slices"
+
 const (
 	MaxSections = 200
 	MaxTrains   = 20
@@ -129,8 +131,7 @@ func dropRight(l Line) bool {
 	if l.Drop == none {
 		return true
 	}
-	last := l.Grants[len(l.Grants)-1]
-	return within(l.Drop, l.Gone, l.total()-1) && last.Cells <= l.Drop && l.reach() >= l.total()
+	return within(l.Drop, l.Gone, l.total()-1) && l.last().Cells <= l.Drop && l.reach() >= l.total()
 }
 
 // owners has the line of each section that is held, and whether none is held in two places.
@@ -149,9 +150,24 @@ func owners(lines []Line) (map[int]int, bool) {
 
 func (l Line) total() int { return l.Gone + len(l.Way) }
 
-// reach may begin its fold at 0, as no Cells of a right line are below it.
-func (l Line) reach() int {
-	return fold(l.Grants, 0, func(most int, g Grant) int { return max(most, g.Cells) })
+func (l Line) reach() int { return mostCells(l.Grants) }
+
+// last leans on a line that has Grants, as each right one does.
+func (l Line) last() Grant { return l.Grants[len(l.Grants)-1] }
+
+// copied shares no list with the book, so that whoever changes it writes into no argument.
+func (b Book) copied() Book {
+	b.Lines = slices.Clone(b.Lines)
+	for i, l := range b.Lines {
+		b.Lines[i].Way = slices.Clone(l.Way)
+		b.Lines[i].Grants = slices.Clone(l.Grants)
+	}
+	return b
+}
+
+// mostCells may begin its fold at 0, as no Cells of a right line are below it.
+func mostCells(grants []Grant) int {
+	return fold(grants, 0, func(most int, g Grant) int { return max(most, g.Cells) })
 }
 
 func fold[T, A any](list []T, start A, join func(A, T) A) A {
